@@ -277,6 +277,27 @@ func TestBeginBehindOpen(t *testing.T) {
 	checkFiles(t, d, safely("w00001", row("a")))
 }
 
+// The power goes at the change by which all was made safe: the last segment has bytes, so the next one begins.
+func TestBeginAtWhoseSyncThePowerGoes(t *testing.T) {
+	d := made(t)
+	l := opened(t, d, 1, 20)
+	appends(t, l, "a")
+	ok(t, d.Arm(1))
+	begins(t, l, 2)
+	checkLog(t, l, 1, 2, 0)
+	ok(t, d.Crash(nil))
+	checkLog(t, l, 1, 2, 9)
+	checkFiles(t, d, safely("w00001", row("a")))
+
+	l = opened(t, d, 1, 20, "a")
+	appends(t, l, "b")
+	ok(t, d.Arm(1))
+	answers(t, l.Append([]byte("c")), api.ErrDown)
+	failed(t, l, d)
+	ok(t, d.Crash(nil))
+	opened(t, d, 1, 20, "a", "b")
+}
+
 func TestBeginAtTheLastNumber(t *testing.T) {
 	d := made(t)
 	l := opened(t, d, lastSegment, 20)

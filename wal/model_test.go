@@ -131,10 +131,11 @@ func (m *model) sync() api.Errno {
 }
 
 func (m *model) begin() (int, api.Errno) {
+	empty := m.bytes(m.last) == "" // it stays so in sync, at which the power may go
 	if e := m.sync(); e != api.OK {
 		return 0, e
 	}
-	if m.bytes(m.last) == "" {
+	if empty {
 		return m.last, api.OK
 	}
 	if m.last == lastSegment {
